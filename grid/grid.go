@@ -55,6 +55,18 @@ func (g *Grid) Free(cell int) (bool, error) {
 	return !g.blocked[cell], nil
 }
 
+// Check a cell: may one be in it? ErrBound: it is none; ErrBlocked: it isn't free.
+func (g *Grid) Check(cell int) error {
+	free, err := g.Free(cell)
+	if err != nil {
+		return err
+	}
+	if !free {
+		return api.ErrBlocked
+	}
+	return nil
+}
+
 // Version: how many times a cell changed.
 func (g *Grid) Version() int { return g.version }
 

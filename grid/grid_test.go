@@ -101,6 +101,21 @@ func TestCellsAndPlaces(t *testing.T) {
 	}
 }
 
+// B1, Z3: one may be in a free cell, not in a blocked one, and nowhere else.
+func TestCheck(t *testing.T) {
+	g := drawn(t, "..@", "@..")
+	for cell, want := range []error{nil, nil, api.ErrBlocked, api.ErrBlocked, nil, nil, api.ErrBound} {
+		if err := g.Check(cell); err != want {
+			t.Errorf("Check(%d) = %v, want %v", cell, err, want)
+		}
+	}
+	for _, cell := range wild {
+		if err := g.Check(cell); err != error(api.ErrBound) {
+			t.Errorf("Check(%d) = %v, want ErrBound", cell, err)
+		}
+	}
+}
+
 // B1, Z1, Z3: what is beyond the border is no cell, and asks for it change nothing.
 func TestBeyondTheBorder(t *testing.T) {
 	for _, size := range [][2]int{{1, 1}, {5, 4}, {3, 16}, {16, 16}} {
