@@ -17,7 +17,7 @@ func Check(c api.Cost) error {
 
 func within(steps int) bool { return 0 <= steps && steps <= api.Far }
 
-// Compare two costs: -1: the first one is less; 0: they are the same; 1: it is more.
+// Compare two costs: -1: the first one is less; 0: they are the same; 1: it is more. It is exact up to 1024 times Far steps, as a search adds up more than two costs.
 func Compare(a, b api.Cost) int {
 	straight := int64(a.S) - int64(b.S)
 	diagonal := int64(b.D) - int64(a.D)

@@ -114,7 +114,7 @@ func TestCompareNearestFractions(t *testing.T) {
 // A2: drawn costs, held against a root of 2 of 400 bits.
 func TestCompareDrawn(t *testing.T) {
 	d := die(1)
-	for _, most := range []int{12, 2000, 2*api.Far + 1} {
+	for _, most := range []int{12, 2000, 2*api.Far + 1, 1024*api.Far + 1} {
 		for range 3000 {
 			a, b := c(d.n(most), d.n(most)), c(d.n(most), d.n(most))
 			checkPair(t, a, b, worth(a).Cmp(worth(b)))
